@@ -271,6 +271,8 @@ func TestAllLeave(t *testing.T) {
 		} else if people > 0 && steps <= 500 {
 			gone++
 			same(t, "how many are left of those who can leave", before, 0)
+			// In each tick at least one of them leaves, or comes a step nearer.
+			same(t, "they need more ticks than steps", len(left) > steps, false)
 		}
 		most := r.Intn(40)
 		short, e := ground.Leave(g, l, sites, crowd, most)
